@@ -91,7 +91,15 @@ func (l *Lexicon) Prefix(prefix string) []string {
 }
 
 // Near tells the words that are near (P6).
-func (l *Lexicon) Near(word string, far int, most int) ([]Match, Errno) { return nil, OK }
+func (l *Lexicon) Near(word string, far int, most int) ([]Match, Errno) {
+	if e := wrongWith(word); e != OK {
+		return nil, e
+	}
+	if far < 0 || far > maxNear || most < 0 {
+		return nil, ErrArg
+	}
+	return nearest(l.words.within(word, far), most), OK
+}
 
 // States tells how many the graph has (P7).
 func (l *Lexicon) States() int { return 0 }

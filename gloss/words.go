@@ -88,25 +88,32 @@ func (s wordSet) copied() wordSet {
 	return s.beginning("")
 }
 
+// each hands out the words, one by one, in no order that may be told.
+func (s wordSet) each(hand func(word string)) {
+	for word := range s {
+		hand(word)
+	}
+}
+
 // beginning is the words that begin with the bytes of prefix, in new memory.
 func (s wordSet) beginning(prefix string) wordSet {
 	found := wordSet{}
-	for word := range s {
+	s.each(func(word string) {
 		if strings.HasPrefix(word, prefix) {
 			found.put(word)
 		}
-	}
+	})
 	return found
 }
 
 // below counts the words that are lower than this one.
 func (s wordSet) below(word string) int {
 	n := 0
-	for other := range s {
+	s.each(func(other string) {
 		if other < word {
 			n++
 		}
-	}
+	})
 	return n
 }
 
