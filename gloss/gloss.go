@@ -35,13 +35,23 @@ func Build(words ...string) (*Lexicon, Errno, int) {
 	return none.With(words...)
 }
 
-// Decode reads a lexicon's text (P8). Until P8 is built no text can be read:
-// it refuses all of them, so that nobody is handed a nil lexicon with OK.
-func Decode(text string) (*Lexicon, Errno) {
+// Decode reads a lexicon's text (P8). What is read is written again and held
+// against the text: states that are numbered in another way, there twice or led
+// to by nothing, a needless 0 and text that is left over are found so.
+func Decode(text string) (l *Lexicon, e Errno) {
 	if len(text) > maxText {
 		return nil, ErrLong
 	}
-	return nil, ErrData
+	defer func() {
+		if recover() != nil {
+			l, e = nil, ErrData
+		}
+	}()
+	l = &Lexicon{words: readGraph(text).words()}
+	if l.Encode() != text {
+		giveUp()
+	}
+	return l, OK
 }
 
 // With makes a lexicon that has more words (P4).
@@ -102,7 +112,7 @@ func (l *Lexicon) Near(word string, far int, most int) ([]Match, Errno) {
 }
 
 // States tells how many the graph has (P7).
-func (l *Lexicon) States() int { return 0 }
+func (l *Lexicon) States() int { return len(l.words.graph()) }
 
 // Encode writes the graph (P8).
-func (l *Lexicon) Encode() string { return "" }
+func (l *Lexicon) Encode() string { return l.words.graph().text() }
